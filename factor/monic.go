@@ -1,0 +1,93 @@
+package factor
+
+import (
+	"primrose/api"
+	"primrose/modular"
+	"primrose/prime"
+	"primrose/whole"
+)
+
+// monicForm returns the monic form of f, which is square-free and no constant, and
+// the sum of the absolute values of its coefficients. It returns false as soon as
+// it is known that f is too large whatever its prime is: the form may be much
+// longer than f.
+func monicForm(f []api.Int) (form []api.Int, sum api.Int, ok bool) {
+	n := len(f) - 1
+	if n > 32*maxLimbs {
+		return nil, api.Int{}, false
+	}
+	form = make([]api.Int, n+1)
+	form[n], sum = whole.Of(1), whole.Of(1)
+	times := whole.Of(1)
+	for i := n - 1; i >= 0; i-- {
+		form[i] = whole.Mul(f[i], times)
+		sum = whole.Add(sum, absolute(form[i]))
+		// As one of the first two coefficients of f is not 0, the sum will be at
+		// least as great as times while i > 0.
+		if len(sum.Mag) > maxLimbs || i > 0 && len(times.Mag) > maxLimbs {
+			return nil, api.Int{}, false
+		}
+		if i > 0 {
+			times = whole.Mul(times, f[n])
+		}
+	}
+	return form, sum, true
+}
+
+// fromMonic returns the primitive factor of a polynomial with that last
+// coefficient, if g is the factor of its monic form.
+func fromMonic(g []api.Int, last api.Int) []api.Int {
+	l := make([]api.Int, len(g))
+	times := whole.Of(1)
+	for i, c := range g {
+		l[i] = whole.Mul(c, times)
+		times = whole.Mul(times, last)
+	}
+	return Primitive(l)
+}
+
+// monicModulo returns the residues of the monic form of f modulo p, which is a
+// prime of no more than 31 binary digits.
+func monicModulo(f []api.Int, p int) []int {
+	n := len(f) - 1
+	form := make([]int, n+1)
+	form[n] = 1
+	last, _ := prime.Mod(f[n], p)
+	times := 1
+	for i := n - 1; i >= 0; i-- {
+		c, _ := prime.Mod(f[i], p)
+		form[i] = c * times % p
+		times = times * last % p
+	}
+	return form
+}
+
+// suits reports whether the monic form of f has no common factor with its
+// derivative modulo p.
+func suits(p int, f []api.Int) bool {
+	form := monicModulo(f, p)
+	return len(modular.Gcd(form, modular.Deriv(form, p), p)) == 1
+}
+
+// primeOf returns the prime of f, or 0 if there is none below 2^16.
+func primeOf(f []api.Int) int {
+	for p := 2; p < maxPrime; p = prime.After(p) {
+		if suits(p, f) {
+			return p
+		}
+	}
+	return 0
+}
+
+// exponentOf returns the least k, from 1 on, for which p^k is greater than the
+// bound, or 0 if it would be greater than 1000.
+func exponentOf(p int, bound api.Int) int {
+	q := whole.Of(1)
+	for k := 1; k <= maxPower; k++ {
+		q = whole.Mul(q, whole.Of(p))
+		if whole.Cmp(q, bound) > 0 {
+			return k
+		}
+	}
+	return 0
+}
