@@ -2,7 +2,6 @@ package factor
 
 import (
 	"primrose/api"
-	"primrose/fraction"
 	"primrose/whole"
 )
 
@@ -24,6 +23,14 @@ func product(f, g []api.Int) []api.Int {
 	return l
 }
 
+// difference returns f - g.
+func difference(f, g []api.Int) []api.Int {
+	l := make([]api.Int, max(len(f), len(g)))
+	copy(l, f)
+	subtractTimes(l[:len(g)], whole.Of(1), g)
+	return trimmed(l)
+}
+
 // subtractTimes subtracts from f c times as many coefficients of g.
 func subtractTimes(f []api.Int, c api.Int, g []api.Int) {
 	if whole.Sign(c) == 0 {
@@ -34,13 +41,31 @@ func subtractTimes(f []api.Int, c api.Int, g []api.Int) {
 	}
 }
 
-// valueAtOne returns the value of f at 1.
-func valueAtOne(f []api.Int) api.Int {
+func derivative(f []api.Int) []api.Int {
+	l := make([]api.Int, max(len(f)-1, 0))
+	for i := range l {
+		l[i] = whole.Mul(f[i+1], whole.Of(i+1))
+	}
+	return l
+}
+
+// value returns the value of f at x.
+func value(f []api.Int, x api.Int) api.Int {
 	sum := whole.Of(0)
-	for _, c := range f {
-		sum = whole.Add(sum, c)
+	for i := len(f) - 1; i >= 0; i-- {
+		sum = whole.Add(whole.Mul(sum, x), f[i])
 	}
 	return sum
+}
+
+// residues returns the residues of the coefficients modulo p.
+func residues(f []api.Int, p int) []int {
+	l := make([]int, len(f))
+	for i, c := range f {
+		_, residue, _ := whole.Div(c, whole.Of(p))
+		l[i], _ = whole.Small(residue)
+	}
+	return l
 }
 
 func absolute(a api.Int) api.Int {
@@ -51,6 +76,15 @@ func absolute(a api.Int) api.Int {
 func divides(b, a api.Int) bool {
 	_, rest, ok := whole.Div(a, b)
 	return whole.Sign(a) == 0 || ok && whole.Sign(rest) == 0
+}
+
+// nearest returns the residue of a modulo q that is nearest to 0.
+func nearest(a, q api.Int) api.Int {
+	_, residue, _ := whole.Div(a, q)
+	if whole.Cmp(whole.Add(residue, residue), q) > 0 {
+		return whole.Sub(residue, q)
+	}
+	return residue
 }
 
 // power returns a^n for n of at least 0.
@@ -64,33 +98,4 @@ func power(a api.Int, n int) api.Int {
 		return square
 	}
 	return whole.Mul(square, a)
-}
-
-// fractions returns f with fractions as coefficients.
-func fractions(f []api.Int) []api.Rat {
-	l := make([]api.Rat, len(f))
-	for i, c := range f {
-		l[i] = fractionOf(c)
-	}
-	return l
-}
-
-// integers returns f times the least positive integer that makes its coefficients
-// integers.
-func integers(f []api.Rat) []api.Int {
-	times := fraction.Of(1)
-	for _, c := range f {
-		// The denominator that is left is what times still lacks.
-		lack := api.Int{Mag: fraction.Mul(c, times).Den}
-		times = fraction.Mul(times, fractionOf(lack))
-	}
-	l := make([]api.Int, len(f))
-	for i, c := range f {
-		l[i] = fraction.Mul(c, times).Num
-	}
-	return l
-}
-
-func fractionOf(a api.Int) api.Rat {
-	return api.Rat{Num: a, Den: []uint32{1}}
 }

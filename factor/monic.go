@@ -2,8 +2,6 @@ package factor
 
 import (
 	"primrose/api"
-	"primrose/modular"
-	"primrose/prime"
 	"primrose/whole"
 )
 
@@ -47,47 +45,15 @@ func fromMonic(g []api.Int, last api.Int) []api.Int {
 }
 
 // monicModulo returns the residues of the monic form of f modulo p, which is a
-// prime of no more than 31 binary digits.
+// prime.
 func monicModulo(f []api.Int, p int) []int {
+	form := residues(f, p)
 	n := len(f) - 1
-	form := make([]int, n+1)
+	last, times := form[n], 1
 	form[n] = 1
-	last, _ := prime.Mod(f[n], p)
-	times := 1
 	for i := n - 1; i >= 0; i-- {
-		c, _ := prime.Mod(f[i], p)
-		form[i] = c * times % p
+		form[i] = form[i] * times % p
 		times = times * last % p
 	}
 	return form
-}
-
-// suits reports whether the monic form of f has no common factor with its
-// derivative modulo p.
-func suits(p int, f []api.Int) bool {
-	form := monicModulo(f, p)
-	return len(modular.Gcd(form, modular.Deriv(form, p), p)) == 1
-}
-
-// primeOf returns the prime of f, or 0 if there is none below 2^16.
-func primeOf(f []api.Int) int {
-	for p := 2; p < maxPrime; p = prime.After(p) {
-		if suits(p, f) {
-			return p
-		}
-	}
-	return 0
-}
-
-// exponentOf returns the least k, from 1 on, for which p^k is greater than the
-// bound, or 0 if it would be greater than 1000.
-func exponentOf(p int, bound api.Int) int {
-	q := whole.Of(1)
-	for k := 1; k <= maxPower; k++ {
-		q = whole.Mul(q, whole.Of(p))
-		if whole.Cmp(q, bound) > 0 {
-			return k
-		}
-	}
-	return 0
 }

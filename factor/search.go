@@ -28,7 +28,7 @@ type part struct {
 func newSearch(f []api.Int, sum api.Int, lifted [][]api.Int, p, k int) *search {
 	s := &search{p: p, k: k, power: power(whole.Of(p), k), sum: sum, rest: f}
 	for _, g := range lifted {
-		s.parts = append(s.parts, part{g, s.near(valueAtOne(g))})
+		s.parts = append(s.parts, part{g, nearest(value(g, whole.Of(1)), s.power)})
 	}
 	return s
 }
@@ -91,23 +91,14 @@ func (s *search) rootsFit(chosen []part) bool {
 		degree += len(x.f) - 1
 		sum = whole.Add(sum, x.f[len(x.f)-2])
 	}
-	return whole.Cmp(absolute(s.near(sum)), whole.Mul(whole.Of(degree), s.sum)) <= 0
+	return whole.Cmp(absolute(nearest(sum, s.power)), whole.Mul(whole.Of(degree), s.sum)) <= 0
 }
 
 // valueFits reports whether the value at 1 divides that of the rest.
 func (s *search) valueFits(chosen []part) bool {
-	value := whole.Of(1)
+	product := whole.Of(1)
 	for _, x := range chosen {
-		value = s.near(whole.Mul(value, x.value))
+		product = nearest(whole.Mul(product, x.value), s.power)
 	}
-	return divides(value, valueAtOne(s.rest))
-}
-
-// near returns the residue of a that is nearest to 0.
-func (s *search) near(a api.Int) api.Int {
-	_, residue, _ := whole.Div(a, s.power)
-	if whole.Cmp(whole.Add(residue, residue), s.power) > 0 {
-		return whole.Sub(residue, s.power)
-	}
-	return residue
+	return divides(product, value(s.rest, whole.Of(1)))
 }

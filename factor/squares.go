@@ -2,77 +2,87 @@ package factor
 
 import (
 	"primrose/api"
-	"primrose/dense"
-	"primrose/lift"
+	"primrose/modular"
 	"primrose/prime"
-	"primrose/split"
 	"primrose/whole"
-)
-
-const (
-	maxPrime   = 1 << 16 // the prime is less
-	maxPower   = 1000    // of the prime
-	maxLimbs   = 500     // of that power: 16 binary digits, 1000 times
-	maxFactors = 12      // modulo the prime
 )
 
 // squares returns primitive square-free polynomials, no two of which have a common
 // factor, such that f, which is primitive, is the product of the first one, the
-// second one to the power of 2, and so on.
+// second one to the power of 2, and so on. They are what makes those of layer 9
+// have integers as coefficients, found much sooner by residues.
 func squares(f []api.Int) [][]api.Int {
-	if isSquareFree(f) {
-		return [][]api.Int{f}
-	}
+	// Yun's algorithm: b is the product of the factors p that are left, each once.
+	// The sum c has, for each p, the derivative of p times the other factors of b,
+	// as often as p is still a factor of f. The difference of c and the derivative
+	// of b has each p's part once less: so those whose parts are gone divide it.
+	slope := derivative(f)
+	a := common(f, slope)
+	b, _ := Divides(f, a)
+	c, _ := Divides(slope, a)
 	var l [][]api.Int
-	for _, square := range dense.Squares(fractions(f)) {
-		l = append(l, integers(square))
+	for len(b) > 1 {
+		d := difference(c, derivative(b))
+		a = common(b, d)
+		l = append(l, a)
+		b, _ = Divides(b, a)
+		c, _ = Divides(d, a)
 	}
 	return l
 }
 
-// isSquareFree tells the most of the square-free polynomials, and no others. It
-// takes much less time than common divisors of integers.
-//
-// What is square-free modulo some prime is so itself. The primes lie above those
-// that f's own may be, as a polynomial may be made to suit none of these.
-func isSquareFree(f []api.Int) bool {
-	p := maxPrime
-	for range 3 {
-		p = prime.After(p)
-		if suits(p, f) {
-			return true
+// common returns the primitive greatest common divisor of f, which is primitive,
+// and g.
+func common(f, g []api.Int) []api.Int {
+	if len(g) == 0 {
+		return f
+	}
+	// A multiple of the divisor has this last coefficient. Modulo primes that don't
+	// divide it the divisors are no shorter, and all but a few give its residues.
+	last := whole.Gcd(f[len(f)-1], g[len(g)-1])
+	var m mosaic
+	for p := prime.After(1 << 20); ; p = prime.After(p) {
+		unit, _ := prime.Mod(last, p)
+		if unit == 0 {
+			continue
+		}
+		image := modular.Scale(modular.Gcd(residues(f, p), residues(g, p), p), unit, p)
+		if !m.add(image, p) {
+			continue
+		}
+		h := Primitive(m.f)
+		_, ok := Divides(f, h)
+		_, also := Divides(g, h)
+		if ok && also {
+			return h
 		}
 	}
-	return false
 }
 
-// irreducibles returns the irreducible polynomials whose product is f, which is
-// primitive and square-free, or false if it is too large.
-func irreducibles(f []api.Int) ([][]api.Int, bool) {
-	n := len(f) - 1
-	if n == 0 {
-		return nil, true
+// mosaic is a polynomial that is put together of its residues modulo primes: its
+// coefficients are the nearest to 0 modulo the product of the primes.
+type mosaic struct {
+	f       []api.Int
+	product api.Int
+}
+
+// add puts in the residues modulo one more prime. It reports whether the polynomial
+// may be complete, as the residues didn't change it, or it is a constant. One of
+// a greater degree is left out, one of a less degree begins anew.
+func (m *mosaic) add(image []int, p int) bool {
+	if m.f == nil || len(image) < len(m.f) {
+		m.f, m.product = make([]api.Int, len(image)), whole.Of(1)
 	}
-	form, sum, ok := monicForm(f)
-	if !ok {
-		return nil, false
+	if len(image) > len(m.f) {
+		return false
 	}
-	p := primeOf(f)
-	k := exponentOf(p, whole.Mul(power(whole.Of(2), n+1), sum))
-	if p == 0 || k == 0 {
-		return nil, false
+	unit, _ := prime.Mod(m.product, p)
+	unit = prime.Inv(unit, p)
+	lack := modular.Scale(modular.Sub(image, residues(m.f, p), p), unit, p)
+	for i, c := range lack {
+		times := whole.Of(prime.Half(c, p))
+		m.f[i] = whole.Add(m.f[i], whole.Mul(times, m.product))
 	}
-	factors, _ := split.Factor(monicModulo(f, p), p, nil)
-	switch {
-	case len(factors) > maxFactors:
-		return nil, false
-	case len(factors) == 1:
-		return [][]api.Int{f}, true
-	}
-	lifted, _ := lift.Lift(form, factors, p, k)
-	l := newSearch(form, sum, lifted, p, k).irreducibles()
-	for i := range l {
-		l[i] = fromMonic(l[i], f[n])
-	}
-	return l, true
+	m.product = whole.Mul(m.product, whole.Of(p))
+	return len(lack) == 0 || len(image) == 1
 }
