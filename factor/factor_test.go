@@ -268,6 +268,9 @@ func TestM2MultiplicitiesModuloPrimes(t *testing.T) {
 				{bigs(-1, p), 2}, {bigs(2, 1), 1}, {[]*big.Int{power2(70, 1), big.NewInt(3)}, 3},
 			})
 			expectProduct(t, &s, big.NewInt(int64(p)), []known{{bigs(p, p+1), 3}, {bigs(1, 1), 1}, {bigs(1+p, 1), 1}})
+			// Modulo this prime and the next one, both squares are that of x + 3.
+			expectProduct(t, &s, big.NewInt(1), []known{{bigs(3+p*prime.After(p), 1), 2}, {bigs(5, 1), 1}})
+			expectProduct(t, &s, big.NewInt(1), []known{{bigs(3-p*prime.After(p), 1), 2}})
 		}
 	}
 }

@@ -9,8 +9,9 @@ import (
 
 // squares returns primitive square-free polynomials, no two of which have a common
 // factor, such that f, which is primitive, is the product of the first one, the
-// second one to the power of 2, and so on. They are what makes those of layer 9
-// have integers as coefficients, found much sooner by residues.
+// second one to the power of 2, and so on. They are the Squares of layer 9, each
+// times the least integer that makes its coefficients integers; but fractions would
+// take up to hundreds of times as long as residues.
 func squares(f []api.Int) [][]api.Int {
 	// Yun's algorithm: b is the product of the factors p that are left, each once.
 	// The sum c has, for each p, the derivative of p times the other factors of b,
@@ -37,8 +38,8 @@ func common(f, g []api.Int) []api.Int {
 	if len(g) == 0 {
 		return f
 	}
-	// A multiple of the divisor has this last coefficient. Modulo primes that don't
-	// divide it the divisors are no shorter, and all but a few give its residues.
+	// A multiple of the divisor has this last coefficient. Modulo a prime that does
+	// not divide it, the common divisor is no shorter; modulo most, no longer either.
 	last := whole.Gcd(f[len(f)-1], g[len(g)-1])
 	var m mosaic
 	for p := prime.After(1 << 20); ; p = prime.After(p) {
