@@ -10,8 +10,8 @@ import (
 // squares returns primitive square-free polynomials, no two of which have a common
 // factor, such that f, which is primitive, is the product of the first one, the
 // second one to the power of 2, and so on. They are the Squares of layer 9, each
-// times the least integer that makes its coefficients integers; but fractions would
-// take up to hundreds of times as long as residues.
+// times the least integer that makes its coefficients integers; but with
+// fractions, great degrees would take a hundred times as long as with residues.
 func squares(f []api.Int) [][]api.Int {
 	// Yun's algorithm: b is the product of the factors p that are left, each once.
 	// The sum c has, for each p, the derivative of p times the other factors of b,
