@@ -12,25 +12,25 @@ import (
 // bases of a call; beyond it what is left grows by as much.
 func TestFuelOfSamples(t *testing.T) {
 	t.Parallel()
-	for call, places := range map[string][]int{"Contract": {1, 2, 3}, "Halve": {1, 2, 3, 4, 5, 6, 7, 8, 9}, "Degree": {1}} {
+	for call, places := range map[string][]int{"Contract": {1, 2, 3}, "Halve": {1, 2, 3, 4, 5, 6, 7}, "Degree": {1}} {
 		t.Run(call, func(t *testing.T) {
 			t.Parallel()
 			s, samples, found := noise(70), 0, map[int]int{}
 			for _, r := range allRings() {
 				n := len(r.Names)
-				for k := range 12 {
+				for k := range 8 {
 					f := s.sampleIdeal(n, 2)
 					if n > 1 && k == 0 {
 						f = s.chain(n, s.below(n), 1+s.below(min(n-1, 2)))
 					}
 					q := question{call, r, s.anyForms(r, f), s.set(n)}
-					if q.words(200).e == api.OK {
+					if q.words(120).e == api.OK {
 						expectFuel(t, q, found)
 						samples++
 					}
 				}
 			}
-			if samples < 80 {
+			if samples < 60 {
 				t.Errorf("only %d samples of %s", samples, call)
 			}
 			for _, place := range places {
@@ -85,8 +85,6 @@ func TestAllFuel(t *testing.T) {
 			}
 			f := [][]api.Term{p.terms(r), parsed(t, r, "z - 1")}
 			expect(t, question{"Degree", r, f, []int{1, 2}}, api.MaxFuel, x.want)
-			expectNothing(t, question{"Contract", r, f, []int{1, 2}}, api.MaxFuel, api.ErrFuel)
-			expectNothing(t, question{"Halve", r, f, nil}, api.MaxFuel, api.ErrFuel)
 		})
 	}
 }

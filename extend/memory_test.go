@@ -135,8 +135,8 @@ func TestMemory(t *testing.T) {
 	for _, call := range calls() {
 		for _, r := range allRings() {
 			n := len(r.Names)
-			for k := range 8 {
-				f := s.sampleIdeal(n, 1+5*k)
+			for k := range 5 {
+				f := s.sampleIdeal(n, 1+9*k)
 				expectOwnMemory(t, question{call, r, s.anyForms(r, f), s.set(n)}, 300)
 				expectOwnMemory(t, question{call, r, termsOf(r, f), s.set(n)}, 300)
 			}

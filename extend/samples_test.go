@@ -71,15 +71,15 @@ func (c *tally) add(a answer) {
 func TestSamples(t *testing.T) {
 	t.Parallel()
 	for call, least := range map[string]tally{
-		"Contract": {answered: 800, tooLong: 200, fuel: 200}, "Halve": {answered: 500, whole: 200, tooLong: 100, divided: 300, saturated: 5},
-		"Degree": {answered: 600, points: 400},
+		"Contract": {answered: 600, tooLong: 150, fuel: 150}, "Halve": {answered: 400, whole: 150, tooLong: 100, divided: 250, saturated: 5},
+		"Degree": {answered: 500, points: 300},
 	} {
 		t.Run(call, func(t *testing.T) {
 			t.Parallel()
 			s, c := noise(60), tally{}
 			for _, r := range allRings() {
 				n := len(r.Names)
-				for k := range 45 {
+				for k := range 35 {
 					f := s.sampleIdeal(n, 1+k%4)
 					if 1 < n && k < 2 {
 						f = s.chain(n, s.below(n), 1+s.below(min(2, n-1)))

@@ -188,13 +188,13 @@ func TestS4Halves(t *testing.T) {
 	s, tried, divided := noise(93), 0, 0
 	for n := 1; n <= 5; n++ {
 		for _, r := range rings(n) {
-			for k := range 30 {
+			for k := range 25 {
 				f := s.sampleIdeal(n, 2)
 				if n > 1 && k < 2 {
 					f = s.chain(n, s.below(n), 1+s.below(n-1))
 				}
 				q := question{"Halve", r, s.anyForms(r, f), nil}
-				a := q.ask(3 * enough)
+				a := q.ask(enough)
 				if a.e != api.OK {
 					continue
 				}
@@ -203,7 +203,7 @@ func TestS4Halves(t *testing.T) {
 				if e != api.OK {
 					t.Fatal(e)
 				}
-				both, _, e := ideal.Meet(r, a.g, append(slices.Clone(q.f), power), 5*enough)
+				both, _, e := ideal.Meet(r, a.g, append(slices.Clone(q.f), power), enough)
 				if e != api.OK {
 					continue
 				}
@@ -218,7 +218,7 @@ func TestS4Halves(t *testing.T) {
 			}
 		}
 	}
-	if tried < 150 || divided < 60 {
+	if tried < 120 || divided < 40 {
 		t.Errorf("only %d samples, and %d with a division", tried, divided)
 	}
 }
