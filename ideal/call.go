@@ -50,13 +50,7 @@ func (c call) contains(f, h [][]api.Term) (bool, api.Errno) {
 	if e != api.OK {
 		return false, e
 	}
-	for _, p := range h {
-		rest, e := c.remainder(c.ring, p, g)
-		if e != api.OK || len(rest) > 0 {
-			return false, e
-		}
-	}
-	return true, api.OK
+	return c.within(c.ring, h, g)
 }
 
 // product returns the product of two ideals.

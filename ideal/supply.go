@@ -5,7 +5,7 @@ import (
 
 	"primrose/api"
 	"primrose/basis"
-	"primrose/reduce"
+	"primrose/within"
 )
 
 // supply is the fuel of a call: the steps in all rings that it works in are taken
@@ -20,10 +20,11 @@ func (s *supply) basis(r api.Ring, f [][]api.Term) (g [][]api.Term, e api.Errno)
 	return g, e
 }
 
-// remainder returns what remains of p when it is divided by g in a ring.
-func (s *supply) remainder(r api.Ring, p []api.Term, g [][]api.Term) (rest []api.Term, e api.Errno) {
-	rest, s.left, e = reduce.Rem(r, p, g, s.left)
-	return rest, e
+// within reports whether nothing remains of the elements of f when they are divided by g
+// in a ring.
+func (s *supply) within(r api.Ring, f, g [][]api.Term) (is bool, e api.Errno) {
+	is, s.left, e = within.Basis(r, f, g, s.left)
+	return is, e
 }
 
 // elimination returns those elements of the basis of f in a ring that do not contain

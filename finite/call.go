@@ -1,4 +1,4 @@
-package point
+package finite
 
 import (
 	"slices"
@@ -14,48 +14,6 @@ import (
 type call struct {
 	rings
 	left int
-}
-
-// newCall returns a call ahead of its first step, or the error of the arguments.
-func newCall(r api.Ring, f [][]api.Term, u []int, fuel int) (*call, api.Errno) {
-	for _, p := range slices.Concat([][]api.Term{nil}, f) { // f may be empty
-		if _, e := poly.Norm(r, p); e != api.OK {
-			return nil, e
-		}
-	}
-	n := len(r.Names)
-	switch {
-	case fuel < 0 || fuel > api.MaxFuel || !areVariables(u, n) || len(u) == n:
-		return nil, api.ErrArg
-	case n == api.MaxVars:
-		return nil, api.ErrLong
-	}
-	return &call{ringsOf(r, u), fuel}, api.OK
-}
-
-// areVariables reports whether u are indices of n variables, in strictly ascending
-// order.
-func areVariables(u []int, n int) bool {
-	before := -1
-	for _, i := range u {
-		if i <= before || i >= n {
-			return false
-		}
-		before = i
-	}
-	return true
-}
-
-// start returns the contraction of the ideal of f, or ErrWhole if it is the whole ring.
-func (c *call) start(f [][]api.Term) ([][]api.Term, api.Errno) {
-	g, e := c.contract(f)
-	switch {
-	case e != api.OK:
-		return nil, e
-	case len(g) > 0 && slices.Max(g[0][0].E) == 0:
-		return nil, api.ErrWhole
-	}
-	return g, api.OK
 }
 
 // contract returns the contraction of the ideal of f.

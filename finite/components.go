@@ -1,4 +1,4 @@
-package point
+package finite
 
 import (
 	"slices"
