@@ -1,6 +1,8 @@
 package primary
 
 import (
+	"slices"
+
 	"primrose/api"
 	"primrose/basis"
 	"primrose/extend"
@@ -56,7 +58,7 @@ func (c *call) halve(f [][]api.Term) (x half, ok bool, e api.Errno) {
 // components returns the components of a half.
 func (c *call) components(x half) (l []api.Component, e api.Errno) {
 	if len(x.u) == len(c.ring.Names) {
-		return []api.Component{{Q: x.g, P: x.g}}, api.OK
+		return []api.Component{{Q: x.g, P: slices.Clone(x.g)}}, api.OK
 	}
 	l, c.left, e = finite.Components(c.ring, x.g, x.u, c.left)
 	return l, e

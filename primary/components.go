@@ -8,11 +8,18 @@ import (
 
 // decompose returns the components of the ideal of f, in order.
 func (c *call) decompose(f [][]api.Term) ([]api.Component, api.Errno) {
-	found, e := c.find(f)
+	l, e := c.find(f)
 	if e != api.OK {
 		return nil, e
 	}
+	return c.settle(l)
+}
+
+// settle makes components that are found those that are returned: each prime once, none
+// of them redundant, and in order.
+func (c *call) settle(found []api.Component) ([]api.Component, api.Errno) {
 	var l []api.Component
+	var e api.Errno
 	for _, x := range found {
 		if l, e = c.merge(l, x); e != api.OK {
 			return nil, e

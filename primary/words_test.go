@@ -3,7 +3,6 @@ package primary_test
 import (
 	"cmp"
 	"slices"
-	"strings"
 
 	"primrose/api"
 	"primrose/basis"
@@ -27,13 +26,13 @@ type words struct {
 
 // told is what the words tell of their way.
 type told struct {
-	parts   []part // what takes fuel, in order
-	fault   string // what an error occurs in
-	powers  []int  // s of each half
-	found   []api.Component
-	merged  []string // how the Qs that are merged lie to each other
-	removed []int    // the places of the components that are removed
-	tested  int      // how many components may have been removed
+	parts   []part          // what takes fuel, in order
+	fault   string          // what an error occurs in
+	powers  []int           // s of each half
+	found   []api.Component // before they are merged
+	merged  []string        // how the Qs that are merged lie to each other
+	removed []int           // the places of the components that are removed
+	passed  []int           // the place of the polynomial of which something remains, in each test of one that is not
 }
 
 // part is a part of a call that takes fuel.
@@ -80,10 +79,11 @@ func (c *words) meetAll(l [][][]api.Term) [][]api.Term {
 
 // areWithin divides polynomials by a basis, up to the first remainder that is not 0.
 func (c *words) areWithin(f, g [][]api.Term) bool {
-	for _, p := range f {
+	for k, p := range f {
 		rest, left, e := reduce.Rem(c.r, p, g, c.left)
 		c.done("divide", left, e)
 		if len(rest) > 0 {
+			c.passed = append(c.passed, k)
 			return false
 		}
 	}
@@ -106,7 +106,7 @@ func moved(p []api.Term, places []int) []api.Term {
 	return l
 }
 
-// new is the name of a variable that the ring does not have.
+// newName is the name of a variable that the ring does not have.
 func newName(r api.Ring) string {
 	name := "t"
 	for slices.Contains(r.Names, name) {
@@ -294,7 +294,6 @@ func (c *words) removeRedundant(l []api.Component) []api.Component {
 		if len(l) == 1 {
 			break
 		}
-		c.tested++
 		var others []api.Component
 		for i, x := range l {
 			if i != k {
@@ -339,8 +338,12 @@ func compare(r api.Ring, p, q []api.Term) int {
 }
 
 func (c *words) decompose(f [][]api.Term) []api.Component {
-	c.found = c.find(f)
-	l := c.removeRedundant(c.merge(slices.Clone(c.found)))
+	return c.settle(c.find(f))
+}
+
+func (c *words) settle(found []api.Component) []api.Component {
+	c.found = found
+	l := c.removeRedundant(c.merge(found))
 	slices.SortFunc(l, func(x, y api.Component) int {
 		if len(x.P) != len(y.P) {
 			return cmp.Compare(len(x.P), len(y.P))
@@ -379,7 +382,7 @@ func (c *words) hull(f [][]api.Term) [][]api.Term {
 	for _, x := range l {
 		dim, _, e := stair.Dim(c.r, x.P, api.MaxFuel)
 		if e != api.OK {
-			panic(strings.Repeat("dimension", 1))
+			panic("no dimension")
 		}
 		if dim > most {
 			most, best = dim, nil
