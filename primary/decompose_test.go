@@ -113,10 +113,10 @@ func TestKnown(t *testing.T) {
 	s, tried, several, embedded := noise(40), 0, 0, 0
 	for n := 1; n <= 5; n++ {
 		for _, r := range rings(n) {
-			for range 20 {
+			for range 14 {
 				f, known := s.knownIdeal(t, r, 1+s.below(3))
 				q := question{"Decompose", r, s.anyForms(f)}
-				a := q.ask(3000)
+				a := q.ask(2000)
 				if a.e != api.OK {
 					if a.e != api.ErrFuel && a.e != api.ErrLong {
 						t.Fatalf("U1: %v: %d", q, a.e)
@@ -141,7 +141,7 @@ func TestKnown(t *testing.T) {
 			}
 		}
 	}
-	if tried < 350 || several < 70 || embedded < 15 {
+	if tried < 230 || several < 40 || embedded < 8 {
 		t.Errorf("only %d samples, %d with several components, and %d embedded ones", tried, several, embedded)
 	}
 }
@@ -172,12 +172,12 @@ func expectKnown(t *testing.T, q question, known []api.Component) {
 			hull = append(hull, x.Q)
 		}
 	}
-	if a := (question{"Least", q.r, q.f}).ask(4000); a.e == api.OK && !slices.Equal(printedSets(q.r, a.p), printedSets(q.r, minimal)) {
+	if a := (question{"Least", q.r, q.f}).ask(2500); a.e == api.OK && !slices.Equal(printedSets(q.r, a.p), printedSets(q.r, minimal)) {
 		t.Fatalf("U2: %v: %v, not %v", q, a.printed(q.r), printedSets(q.r, minimal))
 	}
 	for call, l := range map[string][][][]api.Term{"Radical": minimal, "Hull": hull} {
 		want, ok := metAll(q.r, l)
-		if a := (question{call, q.r, q.f}).ask(4000); ok && a.e == api.OK && !areSame(a.g, want) {
+		if a := (question{call, q.r, q.f}).ask(2500); ok && a.e == api.OK && !areSame(a.g, want) {
 			t.Fatalf("U3, U4: %s of %v: %s, not %s", call, q, a.printed(q.r), printedList(q.r, want))
 		}
 	}

@@ -40,16 +40,16 @@ func TestFuelOfSamples(t *testing.T) {
 			s, samples, found := noise(70+k), 0, map[string]int{}
 			for n := 1; n <= 5; n++ {
 				for _, r := range rings(n) {
-					for range 8 {
+					for range 4 {
 						q := question{call, r, s.anyForms(s.sampleIdeal(t, r))}
-						if a, _ := q.words(400); a.e != api.OK {
+						if a, _ := q.words(250); a.e != api.OK {
 							continue
 						}
 						all, way := expectWords(t, q, api.MaxFuel)
 						names, ends := way.ends()
 						from := 0
 						for i, end := range ends {
-							for fuel := from; fuel < end; fuel += 1 + (end-from)/8 {
+							for fuel := from; fuel < end; fuel += 1 + (end-from)/5 {
 								expectNothing(t, q, fuel, api.ErrFuel)
 							}
 							expectNothing(t, q, end-1, api.ErrFuel)
@@ -61,10 +61,10 @@ func TestFuelOfSamples(t *testing.T) {
 					}
 				}
 			}
-			if samples < 120 {
+			if samples < 60 {
 				t.Errorf("only %d samples", samples)
 			}
-			for name, least := range map[string]int{"basis": 1, "halve": 100, "middle": 300, "contract": 300, "degree": 20, "meet": 150, "divide": 20} {
+			for name, least := range map[string]int{"basis": 1, "halve": 40, "middle": 100, "contract": 100, "degree": 5, "meet": 60, "divide": 5} {
 				if found[name] < least {
 					t.Errorf("only %d times the fuel ends in %s", found[name], name)
 				}

@@ -19,10 +19,17 @@ func expectLong(t *testing.T, q question, fault string, parts int) {
 		t.Errorf("%v: error %d, %s %d", q, a.e, way.fault, len(way.parts))
 		return
 	}
-	enough := sort.Search(api.MaxFuel, func(fuel int) bool {
-		a, _ := q.words(fuel)
-		return a.e == api.ErrLong
-	})
+	before := 0
+	for _, p := range way.parts {
+		before += p.steps
+	}
+	enough := before
+	if a, _ := q.words(before); a.e != api.ErrLong { // the last part is a basis
+		enough += sort.Search(api.MaxFuel-before, func(fuel int) bool {
+			a, _ := q.words(before + fuel)
+			return a.e == api.ErrLong
+		})
+	}
 	for _, fuel := range []int{enough, enough + 1, api.MaxFuel} {
 		expectNothing(t, q, fuel, api.ErrLong)
 	}

@@ -123,20 +123,20 @@ func TestMemory(t *testing.T) {
 	for _, call := range calls() {
 		for n := 1; n <= 6; n++ {
 			for _, r := range rings(n) {
-				for range 3 {
+				for range 2 {
 					f := s.sampleIdeal(t, r)
-					expectOwnMemory(t, question{call, r, s.anyForms(f)}, 1000)
-					expectOwnMemory(t, question{call, r, f}, 1000)
+					expectOwnMemory(t, question{call, r, s.anyForms(f)}, 400)
+					expectOwnMemory(t, question{call, r, f}, 400)
 				}
 			}
 		}
 		for _, r := range rings(2) {
 			for _, text := range []string{"", "0", "1", "x", "-2/3*x^2*y", "x*y; x^2", "x^2 - 1; y^2 - 4", "x; 3*x; y^2", "x*y^2 - y^2; x^3*y; x - 1", "x^2 - 2; y", "y^65536*x + 1; x^65536 - y"} {
-				expectOwnMemory(t, question{call, r, parsedList(t, r, text)}, 1500)
+				expectOwnMemory(t, question{call, r, parsedList(t, r, text)}, 800)
 				expectOwnMemory(t, question{call, r, parsedList(t, r, text)}, -1)
 			}
 			for _, other := range slices.Concat(wrongPolynomials(2), zeros(2)) {
-				expectOwnMemory(t, question{call, r, append(parsedList(t, r, "x*y; x^2; y^2"), other)}, 1500)
+				expectOwnMemory(t, question{call, r, append(parsedList(t, r, "x*y; x^2; y^2"), other)}, 800)
 			}
 		}
 	}
