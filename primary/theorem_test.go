@@ -284,6 +284,7 @@ func TestU2Chains(t *testing.T) {
 	t.Parallel()
 	for _, x := range []struct{ f, primes, least string }{
 		{"x^2*y; x*y^2", "y / x / y; x", "y / x"},
+		{"y*z; x*y^2", "y / z; y / z; x", "y / z; x"}, // z is divided by the last one, too, for the one in the middle
 		{"x^2; x*y*z", "x / z; x / y; x", "x"},
 		{"x^3; x^2*y; x*y^2*z", "x / z; x / y; x", "x"},
 		{"x^2; x*y^2; x*y*z", "x / y; x / z; y; x", "x"},
