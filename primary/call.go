@@ -33,6 +33,20 @@ func newCall(r api.Ring, f [][]api.Term, fuel int) (*call, api.Errno) {
 	return &call{r, fuel}, api.OK
 }
 
+// answer returns what a call works out from f and the remaining fuel, or its error.
+func answer[T any](r api.Ring, f [][]api.Term, fuel int, work func(*call, [][]api.Term) (T, api.Errno)) (result T, left int, e api.Errno) {
+	var none T
+	c, e := newCall(r, f, fuel)
+	if e != api.OK {
+		return none, 0, e
+	}
+	result, e = work(c, f)
+	if e != api.OK {
+		return none, 0, e
+	}
+	return result, c.left, api.OK
+}
+
 // half is the half of an ideal that is its contraction by u. The other half is the
 // ideal together with h to the power of s.
 type half struct {

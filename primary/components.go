@@ -102,19 +102,23 @@ func (c *call) primes(f [][]api.Term) ([][][]api.Term, api.Errno) {
 	return all, e
 }
 
-// least returns those primes that contain no other one.
-func (c *call) least(l [][][]api.Term) ([][][]api.Term, api.Errno) {
-	var kept [][][]api.Term
+// leastPrimes returns those primes that contain no other one.
+func (c *call) leastPrimes(f [][]api.Term) ([][][]api.Term, api.Errno) {
+	l, e := c.primes(f)
+	if e != api.OK {
+		return nil, e
+	}
+	var least [][][]api.Term
 	for k, p := range l {
 		contains, e := c.containsOne(p, slices.Concat(l[:k], l[k+1:]))
 		if e != api.OK {
 			return nil, e
 		}
 		if !contains {
-			kept = append(kept, p)
+			least = append(least, p)
 		}
 	}
-	return kept, api.OK
+	return least, api.OK
 }
 
 // containsOne reports whether a prime contains one of the others.
@@ -129,10 +133,7 @@ func (c *call) containsOne(p [][]api.Term, others [][][]api.Term) (bool, api.Err
 
 // radical returns the radical of the ideal of f.
 func (c *call) radical(f [][]api.Term) ([][]api.Term, api.Errno) {
-	l, e := c.primes(f)
-	if e == api.OK {
-		l, e = c.least(l)
-	}
+	l, e := c.leastPrimes(f)
 	if e != api.OK {
 		return nil, e
 	}
